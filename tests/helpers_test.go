@@ -1,0 +1,59 @@
+package tests
+
+import (
+	"slices"
+	"testing"
+
+	"loop.example/g01388/impl"
+)
+
+const (
+	leastInt    = -1 << 63
+	greatestInt = 1<<63 - 1
+)
+
+// wantList checks a list and the code beside it.
+func wantList[T comparable](t *testing.T, what string, got []T, code int64, want []T) {
+	t.Helper()
+	if code != impl.ErrNone || !slices.Equal(got, want) {
+		t.Errorf("%s = %v, code %d; want %v", what, got, code, want)
+	}
+}
+
+// wantNoList checks that a list is empty beside the code of an error.
+func wantNoList[T any](t *testing.T, what string, got []T, code, want int64) {
+	t.Helper()
+	if code != want || len(got) != 0 {
+		t.Errorf("%s = %v, code %d; want nothing and code %d", what, got, code, want)
+	}
+}
+
+// wantValue checks a single value and the code beside it; beside an error it is the zero value.
+func wantValue[T comparable](t *testing.T, what string, got T, code int64, want T, wantCode int64) {
+	t.Helper()
+	if code != wantCode || got != want {
+		t.Errorf("%s = %v, code %d; want %v, code %d", what, got, code, want, wantCode)
+	}
+}
+
+// upTo returns the numbers from first to last.
+func upTo(first, last int64) []int64 {
+	list := []int64{}
+	for x := first; x <= last; x++ {
+		list = append(list, x)
+	}
+	return list
+}
+
+// repeat returns a list of n numbers x.
+func repeat(x int64, n int) []int64 {
+	return slices.Repeat([]int64{x}, n)
+}
+
+// dice gives numbers that look like random ones and are the same in each run.
+type dice uint64
+
+func (d *dice) below(n int64) int64 {
+	*d = *d*6364136223846793005 + 1442695040888963407
+	return int64(uint64(*d)>>33) % n
+}
