@@ -1,6 +1,7 @@
 package tests
 
 import (
+	"iter"
 	"slices"
 	"testing"
 
@@ -48,6 +49,23 @@ func upTo(first, last int64) []int64 {
 // repeat returns a list of n numbers x.
 func repeat(x int64, n int) []int64 {
 	return slices.Repeat([]int64{x}, n)
+}
+
+// changedTexts yields the texts that come from one by changing, leaving out or adding a byte.
+func changedTexts(text string) iter.Seq[string] {
+	return func(yield func(changed string) bool) {
+		for k := range len(text) + 1 {
+			before, behind := text[:k], text[k:]
+			if behind != "" && !yield(before+behind[1:]) {
+				return
+			}
+			for sign := range 256 {
+				if with := before + string([]byte{byte(sign)}); !yield(with+behind) || behind != "" && !yield(with+behind[1:]) {
+					return
+				}
+			}
+		}
+	}
 }
 
 // dice gives numbers that look like random ones and are the same in each run.

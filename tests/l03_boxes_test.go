@@ -936,12 +936,8 @@ func TestParseBoxesSyntax(t *testing.T) {
 	}
 	// A text with one byte changed, left out or added is one of another position, or of none.
 	for _, text := range []string{"1x1:0110", "3x2:01101001100101101"} {
-		for k := range len(text) {
-			wantTextOrNone(t, text[:k]+text[k+1:])
-			for sign := range 256 {
-				wantTextOrNone(t, text[:k]+string([]byte{byte(sign)})+text[k:])
-				wantTextOrNone(t, text[:k]+string([]byte{byte(sign)})+text[k+1:])
-			}
+		for changed := range changedTexts(text) {
+			wantTextOrNone(t, changed)
 		}
 	}
 }

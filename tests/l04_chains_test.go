@@ -870,16 +870,8 @@ func TestParseEndingSyntax(t *testing.T) {
 	}
 	// A text with one byte changed, left out or added is one of another ending, or of none.
 	for _, text := range []string{";", "1,3;4", "3,10,30;4,12", "1,2,3,4;4,5,6,30"} {
-		for k := 0; k <= len(text); k++ {
-			for sign := range 256 {
-				wantEndingOrNone(t, text[:k]+string([]byte{byte(sign)})+text[k:])
-			}
-		}
-		for k := range len(text) {
-			wantEndingOrNone(t, text[:k]+text[k+1:])
-			for sign := range 256 {
-				wantEndingOrNone(t, text[:k]+string([]byte{byte(sign)})+text[k+1:])
-			}
+		for changed := range changedTexts(text) {
+			wantEndingOrNone(t, changed)
 		}
 	}
 }
