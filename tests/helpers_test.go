@@ -1,6 +1,7 @@
 package tests
 
 import (
+	"fmt"
 	"iter"
 	"slices"
 	"testing"
@@ -34,6 +35,26 @@ func wantValue[T comparable](t *testing.T, what string, got T, code int64, want 
 	t.Helper()
 	if code != wantCode || got != want {
 		t.Errorf("%s = %v, code %d; want %v, code %d", what, got, code, want, wantCode)
+	}
+}
+
+// wantApart checks that a change of one list of a result, or an append to it, leaves the other lists
+// as they are. It wants at least so many lists.
+func wantApart(t *testing.T, what string, least int, result func() [][]int64) {
+	t.Helper()
+	want := fmt.Sprint(result())
+	if len(result()) < least {
+		t.Errorf("%s = %s; want at least %d lists", what, want, least)
+	}
+	for k := range result() {
+		lists := result()
+		kept := slices.Clone(lists[k])
+		spoil(append(lists[k], 1, 2, 3))
+		spoil(lists[k])
+		lists[k] = kept
+		if got := fmt.Sprint(lists); got != want {
+			t.Errorf("%s: behind a change of the list %d, %s has become %s", what, k, want, got)
+		}
 	}
 }
 
