@@ -4,6 +4,7 @@ import (
 	"fmt"
 	"iter"
 	"slices"
+	"sync"
 	"testing"
 
 	"loop.example/g01388/impl"
@@ -56,6 +57,23 @@ func wantApart(t *testing.T, what string, least int, result func() [][]int64) {
 			t.Errorf("%s: behind a change of the list %d, %s has become %s", what, k, want, got)
 		}
 	}
+}
+
+// wantNoState checks that calls have the same results, whatever calls came before them, and whatever
+// is called, and changed in results, beside them.
+func wantNoState(t *testing.T, results func() string, callOther func()) {
+	t.Helper()
+	want := results()
+	callOther()
+	var callers sync.WaitGroup
+	for range 4 {
+		callers.Go(func() {
+			if got := results(); got != want {
+				t.Errorf("results have changed to %s", got)
+			}
+		})
+	}
+	callers.Wait()
 }
 
 // upTo returns the numbers from first to last.

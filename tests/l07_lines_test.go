@@ -758,16 +758,8 @@ func (p play) behind(node int) play {
 
 // plays returns all ways to give nodes to both players, or to none.
 func (s slate) plays() []play {
-	signs := []string{""}
-	for range s.nodes {
-		var longer []string
-		for _, text := range signs {
-			longer = append(longer, text+".", text+"a", text+"b")
-		}
-		signs = longer
-	}
 	var all []play
-	for _, text := range signs {
+	for _, text := range smallTexts(s.nodes, 1, ".ab") {
 		all = append(all, play{s, text})
 	}
 	return all

@@ -1290,10 +1290,8 @@ func TestListsOfFleetsShareNoMemory(t *testing.T) {
 	})
 }
 
-// The same call has the same result, whatever calls and changes of results came before it, and
-// beside it.
 func TestSeasKeepNoState(t *testing.T) {
-	results := func() string {
+	wantNoState(t, func() string {
 		text := ""
 		for _, sea := range greatSeas() {
 			fleets, code := impl.FleetList(sea)
@@ -1309,16 +1307,5 @@ func TestSeasKeepNoState(t *testing.T) {
 			spoil(none)
 		}
 		return text
-	}
-	want := results()
-	impl.CountAgreeing(seaOf(1, 1, 1), shotsIn("0:1"))
-	var callers sync.WaitGroup
-	for range 4 {
-		callers.Go(func() {
-			if got := results(); got != want {
-				t.Errorf("results have changed to %s", got)
-			}
-		})
-	}
-	callers.Wait()
+	}, func() { impl.CountAgreeing(seaOf(1, 1, 1), shotsIn("0:1")) })
 }
